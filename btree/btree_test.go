@@ -21,6 +21,17 @@ func data(s string) api.Val { return api.Val{Data: s, Page: -1} }
 // long is so many bytes that begin in a page.
 func long(page, many int) api.Val { return api.Val{Page: page, Len: many} }
 
+// nothing is what a key has that is not there.
+func nothing() api.Val { return api.Val{Page: -1} }
+
+// of is what a key of a map has, as a tree tells it.
+func of(m map[string]api.Val, key string) (api.Val, bool) {
+	if v, is := m[key]; is {
+		return v, true
+	}
+	return nothing(), false
+}
+
 // bench is a tree on a disk of its own, and what is known of its pages.
 type bench struct {
 	*testing.T
@@ -59,7 +70,7 @@ func (x *bench) puts(key string, v, had api.Val, is bool) {
 // adds gives something to a key that has nothing.
 func (x *bench) adds(key string, v api.Val) {
 	x.Helper()
-	x.puts(key, v, api.Val{}, false)
+	x.puts(key, v, nothing(), false)
 }
 
 // deletes holds what a key had when it is taken away.
@@ -368,12 +379,12 @@ func (x *bench) page(n api.Node) int {
 // Promise 10.1, Get, Put and Delete: of keys that are there, and of such that are not.
 func TestGetPutDelete(t *testing.T) {
 	x := begun(t, 50)
-	x.has("a", api.Val{}, false)
-	x.deletes("a", api.Val{}, false)
+	x.has("a", nothing(), false)
+	x.deletes("a", nothing(), false)
 	x.adds("b", data("1"))
 	x.has("b", data("1"), true)
-	x.has("a", api.Val{}, false)
-	x.has("c", api.Val{}, false)
+	x.has("a", nothing(), false)
+	x.has("c", nothing(), false)
 	x.puts("b", data(""), data("1"), true)
 	x.puts("b", long(7, 300), data(""), true)
 	x.has("b", long(7, 300), true)
@@ -381,17 +392,54 @@ func TestGetPutDelete(t *testing.T) {
 	x.puts("b", data("2"), data("2"), true)
 	x.adds("", data("nothing"))
 	x.has("", data("nothing"), true)
-	x.deletes("c", api.Val{}, false)
+	x.deletes("c", nothing(), false)
 	x.deletes("b", data("2"), true)
-	x.deletes("b", api.Val{}, false)
-	x.has("b", api.Val{}, false)
+	x.deletes("b", nothing(), false)
+	x.has("b", nothing(), false)
 	x.says(map[string]api.Val{"": data("nothing")})
 	x.deletes("", data("nothing"), true)
-	x.has("", api.Val{}, false)
+	x.has("", nothing(), false)
 	x.says(nil)
 	x.adds("b", long(0, 49))
 	x.deletes("b", long(0, 49), true)
 	x.says(nil)
+}
+
+// Promises 9.1 and 10.1: a key that has nothing has Page -1, in an empty tree, in one of a leaf, in one of inner nodes, and in one that became empty; with an error there is the zero value instead.
+func TestNothing(t *testing.T) {
+	x, full := begun(t, 300), data(strings.Repeat("d", api.MostInline))
+	absent := func() {
+		t.Helper()
+		for _, key := range []string{"", "a", "k010-", "z", strings.Repeat("k", api.MostKey)} {
+			x.has(key, nothing(), false)
+			x.deletes(key, nothing(), false)
+			x.puts(key, data("1"), nothing(), false)
+			x.deletes(key, data("1"), true)
+			x.deletes(key, nothing(), false)
+			x.has(key, nothing(), false)
+		}
+		x.has(strings.Repeat("k", api.MostKey+1), nothing(), false)
+	}
+	absent()
+	for n := range 150 {
+		x.puts(fmt.Sprintf("k%03d", n), full, nothing(), false)
+		if n == 0 {
+			absent()
+		}
+	}
+	if pic := x.look(); pic.deep < 3 {
+		t.Fatalf("depth %d", pic.deep)
+	}
+	absent()
+	for n := range 150 {
+		x.deletes(fmt.Sprintf("k%03d", n), full, true)
+	}
+	x.says(nil)
+	absent()
+	x.takesAllBut(0)
+	x.refusesPut("a", data("1"), api.ErrFull)
+	x.has("a", nothing(), false)
+	x.deletes("a", nothing(), false)
 }
 
 // Promise 10.1: what is not there changes no page, and needs none.
@@ -409,7 +457,7 @@ func TestDeleteOfNothing(t *testing.T) {
 	}
 	x.takesAllBut(0)
 	for n := range 61 {
-		x.deletes(fmt.Sprintf("k%03d", 2*n-1), api.Val{}, false)
+		x.deletes(fmt.Sprintf("k%03d", 2*n-1), nothing(), false)
 	}
 	if !same(was, x.says(want)) {
 		t.Error("pages changed")
@@ -459,7 +507,7 @@ func TestInput(t *testing.T) {
 		long(api.MostSectors-1, api.MostInline+1), long(7, api.MostValue),
 	}
 	for _, key := range []string{"", "a", most, "\x00", "\xff\xfe"} {
-		had, is := api.Val{}, false
+		had, is := nothing(), false
 		for _, v := range right {
 			x.puts(key, v, had, is)
 			x.has(key, v, true)
@@ -481,7 +529,7 @@ func TestInput(t *testing.T) {
 	for _, key := range []string{most + "k", strings.Repeat("k", 300), strings.Repeat("k", 100000)} {
 		x.refusesPut(key, data("x"), api.ErrInput)
 		x.refusesDelete(key, api.ErrInput)
-		x.has(key, api.Val{}, false)
+		x.has(key, nothing(), false)
 	}
 	if !same(was, x.look()) {
 		t.Error("the tree changed")

@@ -456,7 +456,7 @@ func TestOrders(t *testing.T) {
 					}
 					for n := range many {
 						x.has(k.keyOf(n), want[k.keyOf(n)], true)
-						x.has(k.keyOf(n)+"!", api.Val{}, false)
+						x.has(k.keyOf(n)+"!", nothing(), false)
 					}
 					for _, n := range deletes {
 						key := k.keyOf(n)
@@ -487,7 +487,7 @@ type walk struct {
 // change puts or takes away a key, of more keys or fewer as the walk goes on.
 func (w *walk) change(grows bool) {
 	key := w.k.keyOf(w.r.Intn(250))
-	had, is := w.want[key]
+	had, is := of(w.want, key)
 	if w.r.Intn(4) == 0 != grows {
 		v := w.k.valOf(w.r)
 		w.puts(key, v, had, is)
@@ -520,7 +520,7 @@ func (w *walk) step(grows bool) {
 		w.want = maps.Clone(w.last)
 	case 3, 4, 5:
 		key := w.k.keyOf(w.r.Intn(250))
-		v, is := w.want[key]
+		v, is := of(w.want, key)
 		w.has(key, v, is)
 	default:
 		w.change(grows)
